@@ -294,6 +294,18 @@ func TestBarAtEachOutput(t *testing.T) {
 	}
 }
 
+// TestStepBehindABar: the layer whose norm bars the step ahead has a step of its own, and the norm bars on.
+func TestStepBehindABar(t *testing.T) {
+	for _, c := range []struct {
+		row string
+		m   int64
+	}{{"+++", -most}, {"+-+", most}} {
+		n := network(of(1, 1, 1), dense(read("+++"), from(0), always(), from(3)), dense(read(c.row+"+++ ++-"), brink(c.m, 0), from(0), always()), last(read("+++"), 5))
+		walks(t, "a step behind a bar", n, 1)
+		becomes(t, "a step behind a bar", n, network(of(1, 1, 1), dense(read("+++"), from(0), always(), from(3)), dense(read(c.row+"+++"), brink(c.m, 0), from(0)), last(read("++"), 6)))
+	}
+}
+
 // TestBiasesAtTheirBounds: the last layer's biases are no bar, as great as they may be.
 func TestBiasesAtTheirBounds(t *testing.T) {
 	for _, b := range []int64{most - 3, 3 - most} {
